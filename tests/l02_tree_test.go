@@ -56,8 +56,9 @@ func sampleTree() []impl.File {
 }
 
 // listsOverlap asks for the spare places behind both lists, too.
-func listsOverlap(a []impl.File, b []impl.File) bool {
-	size := unsafe.Sizeof(impl.File{})
+func listsOverlap[T any](a []T, b []T) bool {
+	var item T
+	size := unsafe.Sizeof(item)
 	from := uintptr(unsafe.Pointer(unsafe.SliceData(a)))
 	start := uintptr(unsafe.Pointer(unsafe.SliceData(b)))
 	return from < start+uintptr(cap(b))*size && start < from+uintptr(cap(a))*size
