@@ -13,11 +13,7 @@ import (
 
 // ownDelta is a copy whose lists and texts have memory of their own, with spare places behind the lists.
 func ownDelta(d impl.Delta) impl.Delta {
-	drops := make([]string, 0, len(d.Drops)+3)
-	for _, path := range d.Drops {
-		drops = append(drops, strings.Clone(path))
-	}
-	return impl.Delta{Drops: drops, Puts: ownFiles(d.Puts)}
+	return impl.Delta{Drops: ownTexts(d.Drops), Puts: ownFiles(d.Puts)}
 }
 
 func sameDelta(a impl.Delta, b impl.Delta) bool {
