@@ -191,10 +191,10 @@ func wantNoBackup(t *testing.T, what string, s impl.Server, host string, code in
 
 func wantServerCrashed(t *testing.T, what string, s impl.Server, tapes []int64, log int64, want impl.Server) {
 	t.Helper()
-	ownList := ownList(tapes)
+	ownKeep := ownList(tapes)
 	what = "ServerCrash: " + what + ", tapes " + brief(tapes) + ", log " + strconv.FormatInt(log, 10)
-	wantMade(t, what, s, func(own impl.Server) impl.Server { return impl.ServerCrash(own, ownList, log) }, want)
-	wantListAlone(t, what, ownList, tapes)
+	wantMade(t, what, s, func(own impl.Server) impl.Server { return impl.ServerCrash(own, ownKeep, log) }, want)
+	wantListAlone(t, what, ownKeep, tapes)
 }
 
 func wantRecovered(t *testing.T, what string, s impl.Server, want impl.Server) {
